@@ -1,0 +1,196 @@
+// Package rules holds the tests of the rules that hold in all layers.
+package rules
+
+import (
+	"slices"
+	"strings"
+	"testing"
+
+	"stet/api"
+	"stet/bag"
+	"stet/near"
+	"stet/queue"
+	"stet/scan"
+	"stet/utf"
+	"stet/words"
+)
+
+// texts are arguments that nobody would mean.
+func texts() []string {
+	l := []string{"", " ", "\n", "\\", "\\x", "\x00", "\x7f", "\x80", "\xff\xfe", "-", "a", "1", strings.Repeat("\\", 70001), strings.Repeat("9", 70000)}
+	for c := range 256 {
+		l = append(l, string([]byte{'\\', 'x', byte(c)}), string([]byte{byte(c), byte(c)}))
+	}
+	return l
+}
+
+// numbers are numbers of any size.
+func numbers() []int {
+	return []int{-1 << 63, -1<<63 + 1, -1 << 31, -2, -1, 0, 1, 2, 1 << 31, 1<<63 - 2, 1<<63 - 1}
+}
+
+// P1, P2: every call ends, none panics, and with an error all else is zero.
+func TestEveryCallEnds(t *testing.T) {
+	for _, s := range texts() {
+		b := []byte(s)
+		for _, at := range numbers() {
+			if r, n, e := utf.Next(b, at); e != api.OK && (r != 0 || n != 0) {
+				t.Errorf("Next(%q, %d) = %d, %d, %v", s, at, r, n, e)
+			}
+		}
+		if l, at, e := utf.Decode(b); e != api.OK && l != nil || e == api.OK && at != 0 {
+			t.Errorf("Decode(%q) = %v, %d, %v", s, l, at, e)
+		}
+		if n, ok := utf.Count(b); !ok && n != 0 {
+			t.Errorf("Count(%q) = %d", s, n)
+		}
+		if l, e := words.Split(s); e != api.OK && l != nil {
+			t.Errorf("Split(%q) = %q, %v", s, l, e)
+		}
+		if l, n, e := words.Lines(s); e != api.OK && l != nil || e != api.ErrForm && n != 0 {
+			t.Errorf("Lines(%q) = %q, %d, %v", s, l, n, e)
+		}
+		if n, ok := words.Num(s); !ok && n != 0 {
+			t.Errorf("Num(%q) = %d", s, n)
+		}
+		if l, e := words.Bare(s); e != api.OK && l != nil {
+			t.Errorf("Bare(%q) = %q, %v", s, l, e)
+		}
+		words.Hide(b)
+		words.Join(s, s)
+	}
+	for _, n := range numbers() {
+		words.Show(n)
+		if l, e := utf.Put(nil, rune(n)); e != api.OK && l != nil {
+			t.Errorf("Put(%d) = %v, %v", rune(n), l, e)
+		}
+		if l, at, e := utf.Encode([]rune{'a', rune(n)}); e != api.OK && (l != nil || at != 1) {
+			t.Errorf("Encode(a, %d) = %v, %d, %v", rune(n), l, at, e)
+		}
+		utf.Right(rune(n))
+		utf.Len(rune(n))
+	}
+}
+
+// P2: the first part that is wrong is told, and the error that is named first.
+func TestFirstFaultIsTold(t *testing.T) {
+	if _, at, e := utf.Decode([]byte("ab\x80c\xff")); at != 2 || e != api.ErrUtf {
+		t.Error(at, e)
+	}
+	if _, at, e := utf.Encode([]rune{'a', 55296, -1}); at != 1 || e != api.ErrUtf {
+		t.Error(at, e)
+	}
+	if _, _, e := utf.Next([]byte{0x80}, 1); e != api.ErrRange {
+		t.Error(e)
+	}
+	if _, n, e := words.Lines(strings.Repeat("a", api.MaxText+1)); n != 0 || e != api.ErrLong {
+		t.Error(n, e)
+	}
+}
+
+// P3: what is handed in stays as it is, the room behind a list's end too.
+func TestNothingHandedInChanges(t *testing.T) {
+	room := []byte("ab\xe2\x82\xacXXXX")
+	b := room[:5]
+	utf.Put(b, 8364)
+	utf.Put(b, -1)
+	utf.Next(b, 2)
+	utf.Decode(b)
+	utf.Count(b)
+	words.Hide(b)
+	if string(room) != "ab\xe2\x82\xacXXXX" {
+		t.Errorf("%q", room)
+	}
+	runes := []rune{'a', 8364, 'X', 'X'}
+	utf.Encode(runes[:2])
+	if !slices.Equal(runes, []rune{'a', 8364, 'X', 'X'}) {
+		t.Error(runes)
+	}
+	list := []string{"a", "b", "X"}
+	words.Join(list[:2]...)
+	if !slices.Equal(list, []string{"a", "b", "X"}) {
+		t.Error(list)
+	}
+}
+
+// P4: values are copied by =, and the same by == if they hold the same.
+func TestValuesAreCopied(t *testing.T) {
+	one := api.Token{Kind: api.Char, Rune: 'a', Marks: api.Marks{0, 3}}
+	two := one
+	two.Marks[1] = 4
+	if one.Marks[1] != 3 || one == two {
+		t.Error(one, two)
+	}
+	two.Marks[1] = 3
+	if one != two || (api.Sel{Kind: api.SelText, Anchor: 1, Head: 2}) != (api.Sel{Kind: 1, Anchor: 1, Head: 2}) {
+		t.Error(one, two)
+	}
+	var empty bag.Bag
+	other := empty
+	other.With(3)
+	if other != empty || bag.Of() != empty || bag.Of(-1, 256) != empty {
+		t.Error("bags")
+	}
+}
+
+// P5: numbers aren't let go round, and have one form.
+func TestNumbersAsTheyAre(t *testing.T) {
+	for _, w := range []string{"18446744073709551617", "9223372036854775808", "-9223372036854775809", "340282366920938463463374607431768211457", "01", "-0", "+1", "-", "1 "} {
+		if n, ok := words.Num(w); ok || n != 0 {
+			t.Errorf("Num(%q) = %d, %v", w, n, ok)
+		}
+	}
+	for _, n := range numbers() {
+		if back, ok := words.Num(words.Show(n)); !ok || back != n {
+			t.Errorf("%d: %q, %d", n, words.Show(n), back)
+		}
+	}
+	if _, _, e := utf.Next([]byte("abc"), 1<<32+1); e != api.ErrRange {
+		t.Error(e)
+	}
+}
+
+// P6: what a call answers doesn't hang on the calls ahead of it.
+func TestNothingIsKept(t *testing.T) {
+	say := func() string {
+		l, _ := words.Split("a b\\s \xff")
+		b, at, e := utf.Encode([]rune{'a', 8364, 128512})
+		k, n, f := utf.Decode([]byte("ab\x80"))
+		return words.Join(append(l, words.Hide(b), words.Show(at), e.Error(), string(k), words.Show(n), f.Error())...)
+	}
+	was := say()
+	for _, s := range texts() {
+		utf.Decode([]byte(s))
+		words.Lines(s)
+		words.Bare(s)
+		words.Hide([]byte(s))
+	}
+	if now := say(); now != was {
+		t.Errorf("%q, then %q", was, now)
+	}
+}
+
+// P7: what is handed out to be ranged over is never nil, and tells nothing of nil objects, as often as it is ranged over.
+func TestRangedOver(t *testing.T) {
+	all := bag.Bag{}.All()
+	drain := (*queue.Queue[int])(nil).Drain()
+	between := scan.Between(nil, 0, 10)
+	places := near.Places(nil, nil)
+	if all == nil || drain == nil || between == nil || places == nil {
+		t.Fatal("a nil function to be ranged over")
+	}
+	for range 2 {
+		for n := range all {
+			t.Error(n)
+		}
+		for n := range drain {
+			t.Error(n)
+		}
+		for n := range between {
+			t.Error(n)
+		}
+		for sel := range places {
+			t.Error(sel)
+		}
+	}
+}
