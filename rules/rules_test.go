@@ -59,7 +59,16 @@ func TestEveryCallEnds(t *testing.T) {
 		words.Hide(b)
 		words.Join(s, s)
 	}
+	var q queue.Queue[int]
 	for _, n := range numbers() {
+		if b := bag.Of(n, n).With(n); b.Has(n) != (n >= 0 && n < 256) || b.Len() > 1 {
+			t.Errorf("a bag of %d is %v", n, b.List())
+		}
+		q.Put(n, n)
+		if thing, key, ok := q.Take(); thing != n || key != n || !ok {
+			t.Errorf("of %d is taken %d by %d, %v", n, thing, key, ok)
+		}
+		(*queue.Queue[int])(nil).Put(n, n)
 		words.Show(n)
 		if l, e := utf.Put(nil, rune(n)); e != api.OK && l != nil {
 			t.Errorf("Put(%d) = %v, %v", rune(n), l, e)
@@ -108,6 +117,8 @@ func TestNothingHandedInChanges(t *testing.T) {
 	}
 	list := []string{"a", "b", "X"}
 	words.Join(list[:2]...)
+	_ = append(queue.Sorted(nil, list[:2]...), "Y")
+	_ = append(queue.Sorted(func(s string) int { return -int(s[0]) }, list[:2]...), "Y")
 	if !slices.Equal(list, []string{"a", "b", "X"}) {
 		t.Error(list)
 	}
@@ -131,6 +142,12 @@ func TestValuesAreCopied(t *testing.T) {
 	if other != empty || bag.Of() != empty || bag.Of(-1, 256) != empty {
 		t.Error("bags")
 	}
+	other = bag.Of(7, 70)
+	third := other
+	third = third.With(8)
+	if other != bag.Of(70, 7) || third != other.Or(bag.Of(8)) || third == other {
+		t.Error(other.List(), third.List())
+	}
 }
 
 // P5: numbers aren't let go round, and have one form.
@@ -139,6 +156,12 @@ func TestNumbersAsTheyAre(t *testing.T) {
 		if n, ok := words.Num(w); ok || n != 0 {
 			t.Errorf("Num(%q) = %d, %v", w, n, ok)
 		}
+	}
+	if b := bag.Of(1<<32, 1<<32+3, -253, 1<<63-1); b != bag.Of() || bag.Of(3).Has(1<<32+3) || bag.Of(3).Has(-253) {
+		t.Error(b.List())
+	}
+	if l := queue.Sorted(func(n int) int { return n }, numbers()...); !slices.IsSorted(l) {
+		t.Error(l)
 	}
 	for _, n := range numbers() {
 		if back, ok := words.Num(words.Show(n)); !ok || back != n {
@@ -156,6 +179,8 @@ func TestNothingIsKept(t *testing.T) {
 		l, _ := words.Split("a b\\s \xff")
 		b, at, e := utf.Encode([]rune{'a', 8364, 128512})
 		k, n, f := utf.Decode([]byte("ab\x80"))
+		least, _ := bag.Of(9, 4, 4).First()
+		l = append(queue.Sorted(func(s string) int { return len(s) }, l...), words.Show(least))
 		return words.Join(append(l, words.Hide(b), words.Show(at), e.Error(), string(k), words.Show(n), f.Error())...)
 	}
 	was := say()
@@ -164,6 +189,9 @@ func TestNothingIsKept(t *testing.T) {
 		words.Lines(s)
 		words.Bare(s)
 		words.Hide([]byte(s))
+		var q queue.Queue[string]
+		q.Put(len(s), s)
+		bag.Of(len(s)).List()
 	}
 	if now := say(); now != was {
 		t.Errorf("%q, then %q", was, now)
@@ -191,6 +219,35 @@ func TestRangedOver(t *testing.T) {
 		}
 		for sel := range places {
 			t.Error(sel)
+		}
+	}
+}
+
+// P7: what is ranged over is told from its beginning each time, and no more once it is stopped; a queue alone is drained.
+func TestRangedOverAgain(t *testing.T) {
+	all := bag.Of(2, 100, 200).All()
+	for range 3 {
+		var got []int
+		for n := range all {
+			if got = append(got, n); n == 100 {
+				break
+			}
+		}
+		if !slices.Equal(got, []int{2, 100}) {
+			t.Error(got)
+		}
+	}
+	var q queue.Queue[string]
+	q.Put(2, "b")
+	q.Put(1, "a")
+	drain := q.Drain()
+	for _, want := range []string{"a", "b", ""} {
+		got := ""
+		for _, got = range drain {
+			break
+		}
+		if got != want {
+			t.Error(got, want)
 		}
 	}
 }
