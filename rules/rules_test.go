@@ -8,6 +8,8 @@ import (
 
 	"stet/api"
 	"stet/bag"
+	"stet/expr"
+	"stet/lex"
 	"stet/near"
 	"stet/queue"
 	"stet/scan"
@@ -17,7 +19,7 @@ import (
 
 // texts are arguments that nobody would mean.
 func texts() []string {
-	l := []string{"", " ", "\n", "\\", "\\x", "\x00", "\x7f", "\x80", "\xff\xfe", "-", "a", "1", strings.Repeat("\\", 70001), strings.Repeat("9", 70000)}
+	l := []string{"", " ", "\n", "\\", "\\x", "\x00", "\x7f", "\x80", "\xff\xfe", "-", "a", "1", "{", "{1,", "(|)", strings.Repeat("\\", 70001), strings.Repeat("9", 70000), strings.Repeat("(", 70000), strings.Repeat("{", 200)}
 	for c := range 256 {
 		l = append(l, string([]byte{'\\', 'x', byte(c)}), string([]byte{byte(c), byte(c)}))
 	}
@@ -27,6 +29,18 @@ func texts() []string {
 // numbers are numbers of any size.
 func numbers() []int {
 	return []int{-1 << 63, -1<<63 + 1, -1 << 31, -2, -1, 0, 1, 2, 1 << 31, 1<<63 - 2, 1<<63 - 1}
+}
+
+// exprs are lists of parts that nobody would mean.
+func exprs() []expr.Expr {
+	l := []expr.Expr{nil, {}, {{}}, {{Kind: expr.Name}}, {{Kind: expr.Name, Name: "a"}, {Kind: expr.Row}, {Kind: expr.Choice}, {Kind: expr.Times}}}
+	for _, n := range numbers() {
+		for kind := range 6 {
+			l = append(l, expr.Expr{{Kind: kind, Low: n, High: n, Name: "a"}}, expr.Expr{{Kind: kind, Kids: []int{n}}}, expr.Expr{{Kind: expr.Name, Name: "a"}, {Kind: kind, Low: n, Kids: []int{0, n}}})
+		}
+		l = append(l, expr.Expr{{Kind: n, Kids: []int{0}}}, expr.Expr{{Kind: expr.Name, Name: "a"}, {Kind: expr.Times, Low: n, High: n, Kids: []int{0}}})
+	}
+	return l
 }
 
 // P1, P2: every call ends, none panics, and with an error all else is zero.
@@ -56,8 +70,22 @@ func TestEveryCallEnds(t *testing.T) {
 		if l, e := words.Bare(s); e != api.OK && l != nil {
 			t.Errorf("Bare(%q) = %q, %v", s, l, e)
 		}
+		if l, at, e := lex.Lex(s); e != api.OK && l != nil || e == api.OK && at != 0 || at < 0 || at > len(s) {
+			t.Errorf("Lex(%q) = %v, %d, %v", s, l, at, e)
+		}
+		if l, at, e := expr.Parse(s); e != api.OK && l != nil || e == api.OK && (at != 0 || !expr.Right(l)) || at < 0 || at > len(s) {
+			t.Errorf("Parse(%q) = %v, %d, %v", s, l, at, e)
+		}
+		lex.Show([]lex.Sign{{Kind: lex.Name, Name: s}, {Kind: len(s), Name: s}})
 		words.Hide(b)
 		words.Join(s, s)
+	}
+	for _, e := range exprs() {
+		if right := expr.Right(e); !right && expr.Show(e) != "" || !expr.Same(e, e) {
+			t.Errorf("%v is shown as %q", e, expr.Show(e))
+		}
+		expr.Names(e)
+		expr.Same(e, nil)
 	}
 	var q queue.Queue[int]
 	for _, n := range numbers() {
@@ -70,6 +98,7 @@ func TestEveryCallEnds(t *testing.T) {
 		}
 		(*queue.Queue[int])(nil).Put(n, n)
 		words.Show(n)
+		lex.Show([]lex.Sign{{Kind: n}, {Kind: lex.Times, Low: n, High: n}})
 		if l, e := utf.Put(nil, rune(n)); e != api.OK && l != nil {
 			t.Errorf("Put(%d) = %v, %v", rune(n), l, e)
 		}
@@ -94,6 +123,12 @@ func TestFirstFaultIsTold(t *testing.T) {
 	}
 	if _, n, e := words.Lines(strings.Repeat("a", api.MaxText+1)); n != 0 || e != api.ErrLong {
 		t.Error(n, e)
+	}
+	if _, at, e := lex.Lex("a{21}{0}A"); at != 2 || e != api.ErrRange {
+		t.Error(at, e)
+	}
+	if _, at, e := expr.Parse("a || b{0}"); at != 7 || e != api.ErrRange {
+		t.Error(at, e)
 	}
 }
 
@@ -121,6 +156,49 @@ func TestNothingHandedInChanges(t *testing.T) {
 	_ = append(queue.Sorted(func(s string) int { return -int(s[0]) }, list[:2]...), "Y")
 	if !slices.Equal(list, []string{"a", "b", "X"}) {
 		t.Error(list)
+	}
+	made := func() ([]lex.Sign, expr.Expr) {
+		signs, _, _ := lex.Lex("a (b|c)+ d")
+		parts, _, _ := expr.Parse("a (b|c)+ d")
+		return signs, parts
+	}
+	signs, parts := made()
+	lex.Show(signs[:3])
+	for n := range len(parts) + 1 {
+		expr.Right(parts[:n])
+		expr.Show(parts[:n])
+		expr.Names(parts[:n])
+		expr.Same(parts[:n], parts)
+	}
+	if otherSigns, otherParts := made(); !slices.Equal(signs, otherSigns) || !expr.Same(parts, otherParts) {
+		t.Error(signs, parts)
+	}
+}
+
+// P3: what is answered is new memory.
+func TestAnswersAreNew(t *testing.T) {
+	parts, _, _ := expr.Parse("(a b) (c|d)")
+	was := expr.Show(parts)
+	signs, _, _ := lex.Lex("a b")
+	names := expr.Names(parts)
+	for i := range parts {
+		parts[i].Kids = append(parts[i].Kids, 7)
+		parts[i].Kids[0], parts[i].Name = 9, "x"
+	}
+	signs[0], names[0] = lex.Sign{}, "x"
+	if again, _, _ := expr.Parse("(a b) (c|d)"); expr.Show(again) != was || expr.Names(again)[0] != "a" {
+		t.Error(again)
+	}
+	if again, _, _ := lex.Lex("a b"); again[0].Name != "a" {
+		t.Error(again)
+	}
+	// Room behind one part's kids isn't another one's.
+	parts, _, _ = expr.Parse("(a b) (c|d) e")
+	for i := range parts {
+		_ = append(parts[i].Kids, 5, 5, 5)
+	}
+	if expr.Show(parts) != "( a b ) ( c | d ) e" {
+		t.Error(parts)
 	}
 }
 
@@ -168,6 +246,14 @@ func TestNumbersAsTheyAre(t *testing.T) {
 			t.Errorf("%d: %q, %d", n, words.Show(n), back)
 		}
 	}
+	for _, n := range []string{"4294967297", "18446744073709551617", "02", "+2", "-2"} {
+		if l, at, e := lex.Lex("a{" + n + "}"); l != nil || at < 2 || at > 4 || e != api.ErrForm {
+			t.Errorf("a count %s: %v, %d, %v", n, l, at, e)
+		}
+	}
+	if expr.Right(expr.Expr{{Kind: expr.Name, Name: "a"}, {Kind: expr.Times, Low: 1 << 32, High: 1<<32 + 1, Kids: []int{1 << 32}}}) {
+		t.Error("a count of 2^32")
+	}
 	if _, _, e := utf.Next([]byte("abc"), 1<<32+1); e != api.ErrRange {
 		t.Error(e)
 	}
@@ -181,6 +267,9 @@ func TestNothingIsKept(t *testing.T) {
 		k, n, f := utf.Decode([]byte("ab\x80"))
 		least, _ := bag.Of(9, 4, 4).First()
 		l = append(queue.Sorted(func(s string) int { return len(s) }, l...), words.Show(least))
+		parts, _, _ := expr.Parse("(a|b)+ c{2,3} a")
+		signs, place, wrong := lex.Lex("a{0,0}")
+		l = append(append(l, expr.Names(parts)...), expr.Show(parts), lex.Show(signs), words.Show(place), wrong.Error())
 		return words.Join(append(l, words.Hide(b), words.Show(at), e.Error(), string(k), words.Show(n), f.Error())...)
 	}
 	was := say()
@@ -189,6 +278,8 @@ func TestNothingIsKept(t *testing.T) {
 		words.Lines(s)
 		words.Bare(s)
 		words.Hide([]byte(s))
+		lex.Lex(s)
+		expr.Parse(s)
 		var q queue.Queue[string]
 		q.Put(len(s), s)
 		bag.Of(len(s)).List()
