@@ -8,9 +8,11 @@ import (
 
 	"stet/api"
 	"stet/bag"
+	"stet/dfa"
 	"stet/expr"
 	"stet/lex"
 	"stet/near"
+	"stet/nfa"
 	"stet/queue"
 	"stet/scan"
 	"stet/utf"
@@ -86,6 +88,9 @@ func TestEveryCallEnds(t *testing.T) {
 		}
 		expr.Names(e)
 		expr.Same(e, nil)
+		if n, f := nfa.New(e, letter); (n == nil) != (f != api.OK) || (f == api.OK) != expr.Right(e) {
+			t.Errorf("the net of %v: %v, %v", e, n, f)
+		}
 	}
 	var q queue.Queue[int]
 	for _, n := range numbers() {
@@ -110,6 +115,57 @@ func TestEveryCallEnds(t *testing.T) {
 	}
 }
 
+// letter means by a name the number of its first letter, from 1 on.
+func letter(name string) bag.Bag { return bag.Of(int(name[0]-'a') + 1) }
+
+// automata are a text's net and table.
+func automata(t *testing.T, s string) (*nfa.Net, *dfa.Table) {
+	t.Helper()
+	parts, _, e := expr.Parse(s)
+	n, f := nfa.New(parts, letter)
+	x, g := dfa.New(n)
+	if e != api.OK || f != api.OK || g != api.OK {
+		t.Fatal(s, e, f, g)
+	}
+	return n, x
+}
+
+// P1: nets and tables are asked of numbers of any size, and nil ones answer zero values; a call of nil that has an error answers ErrNil.
+func TestAutomata(t *testing.T) {
+	n, x := automata(t, "a+ b{2} c?")
+	var noNet *nfa.Net
+	var noTable *dfa.Table
+	if y, e := dfa.New(noNet); y != nil || e != api.ErrNil {
+		t.Error(y, e)
+	}
+	for _, i := range numbers() {
+		for _, k := range numbers() {
+			if n.Fits(i, k) || noNet.Fits(i, k) {
+				t.Errorf("%d %d fits", i, k)
+			}
+			for _, y := range []*dfa.Table{x, noTable} {
+				if next, ok := y.Next(i, k); !ok && next != 0 || ok && (i < 0 || i >= y.States() || k < 0 || k > 31) {
+					t.Errorf("Next(%d, %d) = %d, %v", i, k, next, ok)
+				}
+				if at, ok := y.Run(i, k, k); !ok && at != 0 || ok && (i < 0 || i >= y.States() || k < 0 || k > 31) {
+					t.Errorf("Run(%d, %d, %d) = %d, %v", i, k, k, at, ok)
+				}
+			}
+		}
+		if i < 0 || i > 5 {
+			if n.Behind(i) != bag.Of() || n.On(i) != bag.Of() || x.Accepts(i) || x.Symbols(i) != bag.Of() {
+				t.Errorf("something is told of %d", i)
+			}
+		}
+		if noNet.Behind(i) != bag.Of() || noNet.On(i) != bag.Of() || noTable.Accepts(i) || noTable.Symbols(i) != bag.Of() {
+			t.Errorf("something is told of %d, of nil", i)
+		}
+	}
+	if noNet.Places() != 0 || noNet.Empty() || noNet.First() != bag.Of() || noNet.Ends() != bag.Of() || noTable.States() != 0 {
+		t.Error("nil tells something")
+	}
+}
+
 // P2: the first part that is wrong is told, and the error that is named first.
 func TestFirstFaultIsTold(t *testing.T) {
 	if _, at, e := utf.Decode([]byte("ab\x80c\xff")); at != 2 || e != api.ErrUtf {
@@ -129,6 +185,17 @@ func TestFirstFaultIsTold(t *testing.T) {
 	}
 	if _, at, e := expr.Parse("a || b{0}"); at != 7 || e != api.ErrRange {
 		t.Error(at, e)
+	}
+	many, _, _ := expr.Parse("((a{20} b){20}){20}")
+	nothing := func(string) bag.Bag { return bag.Bag{} }
+	for want, f := range map[api.Errno]func() (*nfa.Net, api.Errno){
+		api.ErrArg:  func() (*nfa.Net, api.Errno) { return nfa.New(many[:3], nothing) },
+		api.ErrNone: func() (*nfa.Net, api.Errno) { return nfa.New(many, nothing) },
+		api.ErrFull: func() (*nfa.Net, api.Errno) { return nfa.New(many, letter) },
+	} {
+		if n, e := f(); n != nil || e != want {
+			t.Error(n, e, want)
+		}
 	}
 }
 
@@ -169,9 +236,16 @@ func TestNothingHandedInChanges(t *testing.T) {
 		expr.Show(parts[:n])
 		expr.Names(parts[:n])
 		expr.Same(parts[:n], parts)
+		nfa.New(parts[:n], letter)
 	}
 	if otherSigns, otherParts := made(); !slices.Equal(signs, otherSigns) || !expr.Same(parts, otherParts) {
 		t.Error(signs, parts)
+	}
+	net, table := automata(t, "a b c")
+	word := []int{1, 2, 3, 7, 7}
+	table.Run(0, word[:2]...)
+	if !net.Fits(word[:3]...) || !slices.Equal(word, []int{1, 2, 3, 7, 7}) {
+		t.Error(word)
 	}
 }
 
@@ -269,6 +343,14 @@ func TestNothingIsKept(t *testing.T) {
 		l = append(queue.Sorted(func(s string) int { return len(s) }, l...), words.Show(least))
 		parts, _, _ := expr.Parse("(a|b)+ c{2,3} a")
 		signs, place, wrong := lex.Lex("a{0,0}")
+		net, table := automata(t, "(a|b)+ c{2,3} a")
+		end, ok := table.Run(0, 1, 2, 3, 3, 1)
+		for _, n := range append(net.Behind(3).List(), net.Places(), end, table.States()) {
+			l = append(l, words.Show(n))
+		}
+		if !ok || !table.Accepts(end) || !net.Fits(2, 3, 3, 1) {
+			t.Error(end, ok)
+		}
 		l = append(append(l, expr.Names(parts)...), expr.Show(parts), lex.Show(signs), words.Show(place), wrong.Error())
 		return words.Join(append(l, words.Hide(b), words.Show(at), e.Error(), string(k), words.Show(n), f.Error())...)
 	}
@@ -283,6 +365,10 @@ func TestNothingIsKept(t *testing.T) {
 		var q queue.Queue[string]
 		q.Put(len(s), s)
 		bag.Of(len(s)).List()
+	}
+	for _, e := range exprs() {
+		n, _ := nfa.New(e, letter)
+		dfa.New(n)
 	}
 	if now := say(); now != was {
 		t.Errorf("%q, then %q", was, now)
