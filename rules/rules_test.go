@@ -8,8 +8,10 @@ import (
 
 	"stet/api"
 	"stet/bag"
+	"stet/decl"
 	"stet/dfa"
 	"stet/expr"
+	"stet/least"
 	"stet/lex"
 	"stet/near"
 	"stet/nfa"
@@ -45,6 +47,14 @@ func exprs() []expr.Expr {
 	return l
 }
 
+// declared is what lines say of a node and a mark, all told by texts and numbers that nobody would mean.
+func declared(s string, n int) decl.Decl {
+	return decl.Decl{
+		Nodes: []decl.Node{{Name: s, Groups: []string{s}, Attr: n, Marks: []string{s, s}, Expr: s}, {Name: "a", Leaf: true, Attr: n, Expr: s}},
+		Marks: []decl.Mark{{Name: s, Value: n, All: true, Bars: []string{s}}, {Name: "a", Value: n, Bars: []string{s}}},
+	}
+}
+
 // P1, P2: every call ends, none panics, and with an error all else is zero.
 func TestEveryCallEnds(t *testing.T) {
 	for _, s := range texts() {
@@ -77,6 +87,14 @@ func TestEveryCallEnds(t *testing.T) {
 		}
 		if l, at, e := expr.Parse(s); e != api.OK && l != nil || e == api.OK && (at != 0 || !expr.Right(l)) || at < 0 || at > len(s) {
 			t.Errorf("Parse(%q) = %v, %d, %v", s, l, at, e)
+		}
+		for _, text := range []string{s, s + "\n", "node " + s + "\n", "mark a " + s + "\n", "node a group=" + s + "\n", "node a marks=" + s + "\n", "node a : " + s + "\n"} {
+			if d, at, e := decl.Parse(text); e != api.OK && !decl.Same(d, decl.Decl{}) || (at != 0) != (e == api.ErrForm || e == api.ErrName) {
+				t.Errorf("Parse(%.60q) = %+v, %d, %v", text, d, at, e)
+			}
+		}
+		if d := declared(s, len(s)); decl.Show(d) != "" || !decl.Same(d, d) {
+			t.Errorf("%+v is shown as %q", d, decl.Show(d))
 		}
 		lex.Show([]lex.Sign{{Kind: lex.Name, Name: s}, {Kind: len(s), Name: s}})
 		words.Hide(b)
@@ -147,6 +165,15 @@ func TestAutomata(t *testing.T) {
 				if next, ok := y.Next(i, k); !ok && next != 0 || ok && (i < 0 || i >= y.States() || k < 0 || k > 31) {
 					t.Errorf("Next(%d, %d) = %d, %v", i, k, next, ok)
 				}
+				if w, p, ok := least.Word(y, i, []int{k, k, k}); !ok && (w != nil || p != 0) || ok && (i < 0 || i >= y.States()) {
+					t.Errorf("Word(%d) by %d: %v, %d, %v", i, k, w, p, ok)
+				}
+				if w, p, ok := least.Between(y, i, k, []int{i, k}); !ok && (w != nil || p != 0) || ok && (i < 0 || i >= y.States() || k < 0 || k >= y.States()) {
+					t.Errorf("Between(%d, %d): %v, %d, %v", i, k, w, p, ok)
+				}
+				if l := least.Live(y, []int{i, k}); len(l) != y.States() {
+					t.Errorf("Live by %d, %d: %v", i, k, l)
+				}
 				if at, ok := y.Run(i, k, k); !ok && at != 0 || ok && (i < 0 || i >= y.States() || k < 0 || k > 31) {
 					t.Errorf("Run(%d, %d, %d) = %d, %v", i, k, k, at, ok)
 				}
@@ -185,6 +212,15 @@ func TestFirstFaultIsTold(t *testing.T) {
 	}
 	if _, at, e := expr.Parse("a || b{0}"); at != 7 || e != api.ErrRange {
 		t.Error(at, e)
+	}
+	for want, text := range map[api.Errno]string{
+		api.ErrForm: "node a\nnode text :: \nmark a b\n",
+		api.ErrName: "node a\nnode text : a\nmark a b\n",
+		api.ErrLong: strings.Repeat("node 1\n", 10000),
+	} {
+		if d, at, e := decl.Parse(text); e != want || !decl.Same(d, decl.Decl{}) || at != map[api.Errno]int{api.ErrForm: 2, api.ErrName: 2}[want] {
+			t.Error(d, at, e)
+		}
 	}
 	many, _, _ := expr.Parse("((a{20} b){20}){20}")
 	nothing := func(string) bag.Bag { return bag.Bag{} }
@@ -244,8 +280,31 @@ func TestNothingHandedInChanges(t *testing.T) {
 	net, table := automata(t, "a b c")
 	word := []int{1, 2, 3, 7, 7}
 	table.Run(0, word[:2]...)
+	least.Word(table, 0, word[:4])
+	least.Between(table, 0, 1, word[:4])
+	least.Live(table, word[:4])
 	if !net.Fits(word[:3]...) || !slices.Equal(word, []int{1, 2, 3, 7, 7}) {
 		t.Error(word)
+	}
+}
+
+// P3: what lists of lists say stays as it is.
+func TestNothingDeclaredChanges(t *testing.T) {
+	made := func() decl.Decl {
+		d, _, _ := decl.Parse("node a group=b group=c marks=b,c : a b\nnode b\nmark b bars=b,c\nmark c\n")
+		return d
+	}
+	d := made()
+	nodes, marks := d.Nodes, d.Marks
+	groups, bars := d.Nodes[0].Groups, d.Marks[0].Bars
+	d.Nodes, d.Marks = nodes[:1], marks[:1]
+	d.Nodes[0].Groups, d.Marks[0].Bars = groups[:1], bars[:1]
+	if s := decl.Show(d); s != "mark b bars=b\nnode a group=b marks=b,c : a b\n" || !decl.Same(d, d) {
+		t.Errorf("%q", s)
+	}
+	nodes[0].Groups, marks[0].Bars = groups, bars
+	if !decl.Same(decl.Decl{Nodes: nodes, Marks: marks}, made()) {
+		t.Error(nodes, marks)
 	}
 }
 
@@ -328,6 +387,23 @@ func TestNumbersAsTheyAre(t *testing.T) {
 	if expr.Right(expr.Expr{{Kind: expr.Name, Name: "a"}, {Kind: expr.Times, Low: 1 << 32, High: 1<<32 + 1, Kids: []int{1 << 32}}}) {
 		t.Error("a count of 2^32")
 	}
+	for _, n := range []string{"4294967297", "18446744073709551617", "02", "+2", "-2", "-0", "1000"} {
+		if d, at, e := decl.Parse("node a attr=" + n + "\n"); d.Nodes != nil || at != 1 || e != api.ErrForm {
+			t.Errorf("an attribute %s: %+v, %d, %v", n, d, at, e)
+		}
+	}
+	_, table := automata(t, "a")
+	for _, n := range numbers() {
+		if s := decl.Show(decl.Decl{Marks: []decl.Mark{{Name: "a", Value: n}}}); (s != "") != (n >= 0 && n <= api.MaxValue) {
+			t.Errorf("a value %d is shown as %q", n, s)
+		}
+		if w, p, ok := least.Word(table, 0, []int{0, n}); ok != (n >= 0 && n <= 1000000) || ok && (p != n || len(w) != 1) {
+			t.Errorf("Word by %d: %v, %d, %v", n, w, p, ok)
+		}
+		if _, _, ok := least.Between(table, n, n, nil); ok != (n == 0 || n == 1) {
+			t.Errorf("Between(%d, %d): %v", n, n, ok)
+		}
+	}
 	if _, _, e := utf.Next([]byte("abc"), 1<<32+1); e != api.ErrRange {
 		t.Error(e)
 	}
@@ -339,8 +415,8 @@ func TestNothingIsKept(t *testing.T) {
 		l, _ := words.Split("a b\\s \xff")
 		b, at, e := utf.Encode([]rune{'a', 8364, 128512})
 		k, n, f := utf.Decode([]byte("ab\x80"))
-		least, _ := bag.Of(9, 4, 4).First()
-		l = append(queue.Sorted(func(s string) int { return len(s) }, l...), words.Show(least))
+		lowest, _ := bag.Of(9, 4, 4).First()
+		l = append(queue.Sorted(func(s string) int { return len(s) }, l...), words.Show(lowest))
 		parts, _, _ := expr.Parse("(a|b)+ c{2,3} a")
 		signs, place, wrong := lex.Lex("a{0,0}")
 		net, table := automata(t, "(a|b)+ c{2,3} a")
@@ -351,6 +427,12 @@ func TestNothingIsKept(t *testing.T) {
 		if !ok || !table.Accepts(end) || !net.Fits(2, 3, 3, 1) {
 			t.Error(end, ok)
 		}
+		best, price, _ := least.Word(table, 0, []int{0, 3, 3, 1})
+		for _, n := range append(best, price, len(least.Live(table, best))) {
+			l = append(l, words.Show(n))
+		}
+		said, line, fault := decl.Parse("node a marks=b,c group=g : (a|b)\nmark b bars=*\n")
+		l = append(l, decl.Show(said), words.Show(line), fault.Error())
 		l = append(append(l, expr.Names(parts)...), expr.Show(parts), lex.Show(signs), words.Show(place), wrong.Error())
 		return words.Join(append(l, words.Hide(b), words.Show(at), e.Error(), string(k), words.Show(n), f.Error())...)
 	}
@@ -362,13 +444,16 @@ func TestNothingIsKept(t *testing.T) {
 		words.Hide([]byte(s))
 		lex.Lex(s)
 		expr.Parse(s)
+		decl.Parse("node a : " + s + "\n")
+		decl.Show(declared(s, len(s)))
 		var q queue.Queue[string]
 		q.Put(len(s), s)
 		bag.Of(len(s)).List()
 	}
 	for _, e := range exprs() {
 		n, _ := nfa.New(e, letter)
-		dfa.New(n)
+		x, _ := dfa.New(n)
+		least.Word(x, 0, numbers())
 	}
 	if now := say(); now != was {
 		t.Errorf("%q, then %q", was, now)
