@@ -13,10 +13,12 @@ import (
 	"stet/expr"
 	"stet/least"
 	"stet/lex"
+	"stet/marks"
 	"stet/near"
 	"stet/nfa"
 	"stet/queue"
 	"stet/scan"
+	"stet/schema"
 	"stet/utf"
 	"stet/words"
 )
@@ -220,6 +222,22 @@ func TestFirstFaultIsTold(t *testing.T) {
 	} {
 		if d, at, e := decl.Parse(text); e != want || !decl.Same(d, decl.Decl{}) || at != map[api.Errno]int{api.ErrForm: 2, api.ErrName: 2}[want] {
 			t.Error(d, at, e)
+		}
+	}
+	for want, text := range map[api.Errno]string{
+		api.ErrName: "node a inline marks=b : c text\nnode b group=a inline :\n",
+		api.ErrFit:  "node a inline marks=b : c text\n",
+		api.ErrNone: "node a marks=b : a text\n",
+		api.ErrFull: "node a : (a{20}){13}\nnode b : c\nnode d : a text\n",
+	} {
+		if c, e := schema.New(text); c != nil || e != want {
+			t.Error(c, e)
+		}
+	}
+	set := compiled(t)
+	for want, w := range map[api.Errno]string{api.ErrForm: "b+link=0+x", api.ErrNone: "b+x+b", api.ErrRange: "b=1+x", api.ErrMark: "b+link=9+code"} {
+		if m, e := marks.Parse(set, w); m != (api.Marks{}) || e != want {
+			t.Error(w, m, e)
 		}
 	}
 	many, _, _ := expr.Parse("((a{20} b){20}){20}")
@@ -433,6 +451,7 @@ func TestNothingIsKept(t *testing.T) {
 		}
 		said, line, fault := decl.Parse("node a marks=b,c group=g : (a|b)\nmark b bars=*\n")
 		l = append(l, decl.Show(said), words.Show(line), fault.Error())
+		l = append(l, compiledSay(t, compiled(t))...)
 		l = append(append(l, expr.Names(parts)...), expr.Show(parts), lex.Show(signs), words.Show(place), wrong.Error())
 		return words.Join(append(l, words.Hide(b), words.Show(at), e.Error(), string(k), words.Show(n), f.Error())...)
 	}
@@ -446,6 +465,8 @@ func TestNothingIsKept(t *testing.T) {
 		expr.Parse(s)
 		decl.Parse("node a : " + s + "\n")
 		decl.Show(declared(s, len(s)))
+		schema.New("node a : " + s + "\n")
+		marks.Parse(compiled(t), s)
 		var q queue.Queue[string]
 		q.Put(len(s), s)
 		bag.Of(len(s)).List()
