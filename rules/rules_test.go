@@ -19,6 +19,8 @@ import (
 	"stet/queue"
 	"stet/scan"
 	"stet/schema"
+	"stet/token"
+	"stet/tree"
 	"stet/utf"
 	"stet/words"
 )
@@ -240,6 +242,22 @@ func TestFirstFaultIsTold(t *testing.T) {
 			t.Error(w, m, e)
 		}
 	}
+	for want, line := range map[api.Errno]string{api.ErrForm: "> b+code\" <x", api.ErrMark: "> b+code*x \"", api.ErrNone: "> x*p=9 <hr", api.ErrRange: "> b=1*p \"\xff"} {
+		if l, at, e := token.Parse(set, line); l != nil || at != 2 || e != want {
+			t.Error(line, l, at, e)
+		}
+	}
+	unshut := []api.Token{{Kind: api.Open, Type: 2}, {}}
+	for want, f := range map[api.Errno]func() (*tree.Node, api.Errno){
+		api.ErrNil:  func() (*tree.Node, api.Errno) { return tree.Build(nil, make([]api.Token, api.MaxSize+1)) },
+		api.ErrLong: func() (*tree.Node, api.Errno) { return tree.Build(set, make([]api.Token, api.MaxSize+1)) },
+		api.ErrArg:  func() (*tree.Node, api.Errno) { return tree.Build(set, unshut) },
+		api.ErrOpen: func() (*tree.Node, api.Errno) { return tree.Build(set, unshut[:1]) },
+	} {
+		if n, e := f(); n != nil || e != want {
+			t.Error(n, e, want)
+		}
+	}
 	many, _, _ := expr.Parse("((a{20} b){20}){20}")
 	nothing := func(string) bag.Bag { return bag.Bag{} }
 	for want, f := range map[api.Errno]func() (*nfa.Net, api.Errno){
@@ -452,6 +470,7 @@ func TestNothingIsKept(t *testing.T) {
 		said, line, fault := decl.Parse("node a marks=b,c group=g : (a|b)\nmark b bars=*\n")
 		l = append(l, decl.Show(said), words.Show(line), fault.Error())
 		l = append(l, compiledSay(t, compiled(t))...)
+		l = append(l, treeSay(compiled(t), `<p=9 "ab b"c link=4*br > *hr`)...)
 		l = append(append(l, expr.Names(parts)...), expr.Show(parts), lex.Show(signs), words.Show(place), wrong.Error())
 		return words.Join(append(l, words.Hide(b), words.Show(at), e.Error(), string(k), words.Show(n), f.Error())...)
 	}
@@ -467,6 +486,7 @@ func TestNothingIsKept(t *testing.T) {
 		decl.Show(declared(s, len(s)))
 		schema.New("node a : " + s + "\n")
 		marks.Parse(compiled(t), s)
+		treeSay(compiled(t), "<p \""+s)
 		var q queue.Queue[string]
 		q.Put(len(s), s)
 		bag.Of(len(s)).List()
