@@ -8,6 +8,7 @@ import (
 
 	"stet/api"
 	"stet/bag"
+	"stet/cut"
 	"stet/decl"
 	"stet/dfa"
 	"stet/expr"
@@ -19,6 +20,7 @@ import (
 	"stet/queue"
 	"stet/scan"
 	"stet/schema"
+	"stet/spot"
 	"stet/token"
 	"stet/tree"
 	"stet/utf"
@@ -258,6 +260,15 @@ func TestFirstFaultIsTold(t *testing.T) {
 			t.Error(n, e, want)
 		}
 	}
+	n, _ := tree.Build(set, token.Text('a'))
+	for want, one := range map[api.Errno]*tree.Node{api.ErrNil: nil, api.ErrArg: n.Kid(0), api.ErrRange: n} {
+		if c, e := cut.Cut(one, 2, -1); c != nil || e != want {
+			t.Error(c, e, want)
+		}
+		if at, e := spot.At(one, -1); at != (spot.Spot{}) || e != want {
+			t.Error(at, e, want)
+		}
+	}
 	many, _, _ := expr.Parse("((a{20} b){20}){20}")
 	nothing := func(string) bag.Bag { return bag.Bag{} }
 	for want, f := range map[api.Errno]func() (*nfa.Net, api.Errno){
@@ -471,6 +482,7 @@ func TestNothingIsKept(t *testing.T) {
 		l = append(l, decl.Show(said), words.Show(line), fault.Error())
 		l = append(l, compiledSay(t, compiled(t))...)
 		l = append(l, treeSay(compiled(t), `<p=9 "ab b"c link=4*br > *hr`)...)
+		l = append(l, cutSay(t, `<p=9 "ab b"c link=4*br > *hr <p "d >`)...)
 		l = append(append(l, expr.Names(parts)...), expr.Show(parts), lex.Show(signs), words.Show(place), wrong.Error())
 		return words.Join(append(l, words.Hide(b), words.Show(at), e.Error(), string(k), words.Show(n), f.Error())...)
 	}
@@ -487,6 +499,7 @@ func TestNothingIsKept(t *testing.T) {
 		schema.New("node a : " + s + "\n")
 		marks.Parse(compiled(t), s)
 		treeSay(compiled(t), "<p \""+s)
+		cutSay(t, "<p > "+s)
 		var q queue.Queue[string]
 		q.Put(len(s), s)
 		bag.Of(len(s)).List()
