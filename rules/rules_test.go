@@ -12,6 +12,7 @@ import (
 	"stet/decl"
 	"stet/dfa"
 	"stet/expr"
+	"stet/fits"
 	"stet/least"
 	"stet/lex"
 	"stet/marks"
@@ -269,6 +270,14 @@ func TestFirstFaultIsTold(t *testing.T) {
 			t.Error(at, e, want)
 		}
 	}
+	for want, row := range map[api.Errno][]api.Token{api.ErrLong: make([]api.Token, api.MaxSize+1), api.ErrArg: unshut, api.ErrOpen: unshut[:1], api.ErrFit: token.Text('a')} {
+		if n, e := fits.Doc(set, row); n != nil || e != want {
+			t.Error(n, e, want)
+		}
+		if n, e := fits.Doc(nil, row); n != nil || e != api.ErrNil {
+			t.Error(n, e)
+		}
+	}
 	many, _, _ := expr.Parse("((a{20} b){20}){20}")
 	nothing := func(string) bag.Bag { return bag.Bag{} }
 	for want, f := range map[api.Errno]func() (*nfa.Net, api.Errno){
@@ -483,6 +492,8 @@ func TestNothingIsKept(t *testing.T) {
 		l = append(l, compiledSay(t, compiled(t))...)
 		l = append(l, treeSay(compiled(t), `<p=9 "ab b"c link=4*br > *hr`)...)
 		l = append(l, cutSay(t, `<p=9 "ab b"c link=4*br > *hr <p "d >`)...)
+		l = append(l, scanSay(t, `<p=9 "ab b"c link=4*br > *hr <p "d >`)...)
+		l = append(l, scanSay(t, `<p <p "x > > *hr`)...)
 		l = append(append(l, expr.Names(parts)...), expr.Show(parts), lex.Show(signs), words.Show(place), wrong.Error())
 		return words.Join(append(l, words.Hide(b), words.Show(at), e.Error(), string(k), words.Show(n), f.Error())...)
 	}
@@ -500,6 +511,7 @@ func TestNothingIsKept(t *testing.T) {
 		marks.Parse(compiled(t), s)
 		treeSay(compiled(t), "<p \""+s)
 		cutSay(t, "<p > "+s)
+		scanSay(t, "<p > "+s)
 		var q queue.Queue[string]
 		q.Put(len(s), s)
 		bag.Of(len(s)).List()
@@ -550,6 +562,18 @@ func TestRangedOverAgain(t *testing.T) {
 			}
 		}
 		if !slices.Equal(got, []int{2, 100}) {
+			t.Error(got)
+		}
+	}
+	between := scan.Between(lineTree(compiled(t), `<p "ab > *hr`), 2, 5)
+	for range 3 {
+		var got []int
+		for at := range between {
+			if got = append(got, at); at == 1 {
+				break
+			}
+		}
+		if !slices.Equal(got, []int{0, 1}) {
 			t.Error(got)
 		}
 	}

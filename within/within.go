@@ -14,6 +14,9 @@ const own = 2
 // Holds tells whether tokens may stand within a node.
 func Holds(n *tree.Node) bool { return !n.Leaf() && n.Size() >= own }
 
+// Text tells whether a node is a text; a leaf can be made with the type of texts, too.
+func Text(n *tree.Node) bool { return n.Leaf() && len(n.Text()) > 0 }
+
 // Size is how many tokens are within a node.
 func Size(n *tree.Node) int {
 	if !Holds(n) {

@@ -41,6 +41,22 @@ func TestSize(t *testing.T) {
 	}
 }
 
+func TestText(t *testing.T) {
+	for i, n := range some() {
+		if Text(n) != (i == 3) {
+			t.Error(i)
+		}
+	}
+	for _, x := range []api.Token{{Kind: api.Leaf}, {Kind: api.Leaf, Rune: 'a'}, {Kind: api.Open}} {
+		if Text(tree.Make(x)) {
+			t.Error(x)
+		}
+	}
+	if !Text(tree.Make(api.Token{Kind: api.Char, Type: 7, Rune: -1})) || !Text(tree.Make(letter(0))) {
+		t.Error("a letter that may not be")
+	}
+}
+
 func TestCheck(t *testing.T) {
 	far := []int{-1 << 63, -1, 0, 1, 3, 7, 8, 1 << 32, 1<<63 - 1}
 	for i, n := range some() {
