@@ -494,6 +494,7 @@ func TestNothingIsKept(t *testing.T) {
 		l = append(l, cutSay(t, `<p=9 "ab b"c link=4*br > *hr <p "d >`)...)
 		l = append(l, scanSay(t, `<p=9 "ab b"c link=4*br > *hr <p "d >`)...)
 		l = append(l, scanSay(t, `<p <p "x > > *hr`)...)
+		l = append(l, fillSay(t, `<p <p "x > > *hr`)...)
 		l = append(append(l, expr.Names(parts)...), expr.Show(parts), lex.Show(signs), words.Show(place), wrong.Error())
 		return words.Join(append(l, words.Hide(b), words.Show(at), e.Error(), string(k), words.Show(n), f.Error())...)
 	}
@@ -512,6 +513,7 @@ func TestNothingIsKept(t *testing.T) {
 		treeSay(compiled(t), "<p \""+s)
 		cutSay(t, "<p > "+s)
 		scanSay(t, "<p > "+s)
+		fillSay(t, "<p > "+s)
 		var q queue.Queue[string]
 		q.Put(len(s), s)
 		bag.Of(len(s)).List()
