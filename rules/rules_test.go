@@ -495,6 +495,7 @@ func TestNothingIsKept(t *testing.T) {
 		l = append(l, scanSay(t, `<p=9 "ab b"c link=4*br > *hr <p "d >`)...)
 		l = append(l, scanSay(t, `<p <p "x > > *hr`)...)
 		l = append(l, fillSay(t, `<p <p "x > > *hr`)...)
+		l = append(l, patchSay(t, `<p=9 link=4*br > *hr <p *br >`)...)
 		l = append(append(l, expr.Names(parts)...), expr.Show(parts), lex.Show(signs), words.Show(place), wrong.Error())
 		return words.Join(append(l, words.Hide(b), words.Show(at), e.Error(), string(k), words.Show(n), f.Error())...)
 	}
@@ -514,6 +515,7 @@ func TestNothingIsKept(t *testing.T) {
 		cutSay(t, "<p > "+s)
 		scanSay(t, "<p > "+s)
 		fillSay(t, "<p > "+s)
+		patchSay(t, "<p > "+s)
 		var q queue.Queue[string]
 		q.Put(len(s), s)
 		bag.Of(len(s)).List()
