@@ -496,6 +496,7 @@ func TestNothingIsKept(t *testing.T) {
 		l = append(l, scanSay(t, `<p <p "x > > *hr`)...)
 		l = append(l, fillSay(t, `<p <p "x > > *hr`)...)
 		l = append(l, patchSay(t, `<p=9 link=4*br > *hr <p *br >`)...)
+		l = append(l, routeSay(t)...)
 		l = append(append(l, expr.Names(parts)...), expr.Show(parts), lex.Show(signs), words.Show(place), wrong.Error())
 		return words.Join(append(l, words.Hide(b), words.Show(at), e.Error(), string(k), words.Show(n), f.Error())...)
 	}
@@ -516,6 +517,7 @@ func TestNothingIsKept(t *testing.T) {
 		scanSay(t, "<p > "+s)
 		fillSay(t, "<p > "+s)
 		patchSay(t, "<p > "+s)
+		routeSay(t)
 		var q queue.Queue[string]
 		q.Put(len(s), s)
 		bag.Of(len(s)).List()
