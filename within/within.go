@@ -84,3 +84,41 @@ func Part(n *tree.Node, from, to int) *tree.Node {
 	// Letters become one text in a node that has them as kids.
 	return tree.Make(api.Token{Kind: api.Open}, letters...).Kid(0)
 }
+
+// Tokens tells the tokens from one position to another one within a node, each with the type of the node in which it stands; positions beyond the ends are those ends.
+func Tokens(n *tree.Node, from, to int) iter.Seq2[int, api.Token] {
+	return func(yield func(int, api.Token) bool) { tell(n, from, to, yield) }
+}
+
+// tell tells the tokens between, and whether it wasn't stopped.
+func tell(n *tree.Node, from, to int, yield func(int, api.Token) bool) bool {
+	for at, kid := range Kids(n) {
+		if at >= to {
+			break
+		}
+		if !tellKid(n.Type(), kid, from-at, to-at, yield) {
+			return false
+		}
+	}
+	return true
+}
+
+// tellKid tells those of a kid, the places told from where it begins.
+func tellKid(parent int, kid *tree.Node, from, to int, yield func(int, api.Token) bool) bool {
+	from, to = max(from, 0), min(to, kid.Size())
+	if from >= to {
+		return true
+	}
+	if kid.Leaf() {
+		for _, t := range kid.Whole()[from:to:to] {
+			if !yield(parent, t) {
+				return false
+			}
+		}
+		return true
+	}
+	if from == 0 && !yield(parent, Open(kid)) {
+		return false
+	}
+	return tell(kid, from-1, to-1, yield) && (to < kid.Size() || yield(parent, api.Token{Kind: api.Close}))
+}

@@ -158,3 +158,67 @@ func TestPart(t *testing.T) {
 		t.Error("a leaf")
 	}
 }
+
+// tokensOf are the tokens from one position to another one, each with the type of the node in which it stands, by all the tokens of a node.
+func tokensOf(n *tree.Node, from, to int) (types []int, l []api.Token) {
+	open := []int{n.Type()}
+	for at, x := range n.Tokens() {
+		if x.Kind == api.Close {
+			open = open[:len(open)-1]
+		}
+		if at >= from && at < to {
+			types, l = append(types, open[len(open)-1]), append(l, x)
+		}
+		if x.Kind == api.Open {
+			open = append(open, x.Type)
+		}
+	}
+	return types, l
+}
+
+// byChance is a node by chance, at most so deep.
+func byChance(chance *rand.Rand, deep int) *tree.Node {
+	var kids []*tree.Node
+	for range chance.IntN(5) {
+		switch k := chance.IntN(4); {
+		case k == 0 && deep > 0:
+			kids = append(kids, byChance(chance, deep-1))
+		case k == 1:
+			kids = append(kids, tree.Make(api.Token{Kind: api.Leaf, Type: chance.IntN(3)}))
+		default:
+			kids = append(kids, tree.Make(letter('a'+rune(chance.IntN(9)), uint16(chance.IntN(2)))))
+		}
+	}
+	return tree.Make(api.Token{Kind: api.Open, Type: chance.IntN(5), Attr: chance.IntN(2)}, kids...)
+}
+
+// Tokens are told with the types in which they stand, from any position to any other one, and no more once it is stopped.
+func TestTokens(t *testing.T) {
+	chance := rand.New(rand.NewPCG(15, 2))
+	l := some()
+	for range 100 {
+		l = append(l, byChance(chance, 3))
+	}
+	for _, n := range l {
+		size := Size(n)
+		for from := -1; from < size+2; from++ {
+			for to := -1; to < size+2; to++ {
+				types, want := tokensOf(n, from, to)
+				all := Tokens(n, from, to)
+				for _, most := range []int{len(want) + 1, 1 + chance.IntN(len(want)+1), len(want) + 1} {
+					var in []int
+					var got []api.Token
+					for typ, x := range all {
+						if in, got = append(in, typ), append(got, x); len(got) == most {
+							break
+						}
+					}
+					most = min(most, len(want))
+					if !slices.Equal(in, types[:most]) || !token.Same(got, want[:most]) {
+						t.Fatal(from, to, in, got)
+					}
+				}
+			}
+		}
+	}
+}
