@@ -499,6 +499,7 @@ func TestNothingIsKept(t *testing.T) {
 		l = append(l, routeSay(t)...)
 		l = append(l, stepSay(t, `<p=9 link=4*br > *hr <p *br >`)...)
 		l = append(l, txSay(t, `<p=9 link=4*br > *hr <p *br >`)...)
+		l = append(l, moveSay(t, `<p=9 link=4*br > *hr <p *br >`)...)
 		l = append(append(l, expr.Names(parts)...), expr.Show(parts), lex.Show(signs), words.Show(place), wrong.Error())
 		return words.Join(append(l, words.Hide(b), words.Show(at), e.Error(), string(k), words.Show(n), f.Error())...)
 	}
@@ -531,6 +532,7 @@ func TestNothingIsKept(t *testing.T) {
 	}
 	stepSay(t, `*hr <p b*br > <p >`)
 	txSay(t, `*hr <p b*br > <p >`)
+	moveSay(t, `*hr <p b*br > <p >`)
 	if now := say(); now != was {
 		t.Errorf("%q, then %q", was, now)
 	}
