@@ -500,6 +500,7 @@ func TestNothingIsKept(t *testing.T) {
 		l = append(l, stepSay(t, `<p=9 link=4*br > *hr <p *br >`)...)
 		l = append(l, txSay(t, `<p=9 link=4*br > *hr <p *br >`)...)
 		l = append(l, moveSay(t, `<p=9 link=4*br > *hr <p *br >`)...)
+		l = append(l, selSay(t, `<p=9 link=4*br > *hr <p *br >`)...)
 		l = append(append(l, expr.Names(parts)...), expr.Show(parts), lex.Show(signs), words.Show(place), wrong.Error())
 		return words.Join(append(l, words.Hide(b), words.Show(at), e.Error(), string(k), words.Show(n), f.Error())...)
 	}
@@ -533,6 +534,7 @@ func TestNothingIsKept(t *testing.T) {
 	stepSay(t, `*hr <p b*br > <p >`)
 	txSay(t, `*hr <p b*br > <p >`)
 	moveSay(t, `*hr <p b*br > <p >`)
+	selSay(t, `*hr <p b*br > <p >`)
 	if now := say(); now != was {
 		t.Errorf("%q, then %q", was, now)
 	}
@@ -586,6 +588,18 @@ func TestRangedOverAgain(t *testing.T) {
 			}
 		}
 		if !slices.Equal(got, []int{0, 1}) {
+			t.Error(got)
+		}
+	}
+	places := near.Places(compiled(t), lineTree(compiled(t), `<p *br > *hr`))
+	for range 3 {
+		var got []int
+		for x := range places {
+			if got = append(got, x.Anchor); x.Anchor == 2 {
+				break
+			}
+		}
+		if !slices.Equal(got, []int{0, 1, 2}) {
 			t.Error(got)
 		}
 	}
