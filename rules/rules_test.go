@@ -18,7 +18,9 @@ import (
 	"stet/marks"
 	"stet/near"
 	"stet/nfa"
+	"stet/pin"
 	"stet/queue"
+	"stet/route"
 	"stet/scan"
 	"stet/schema"
 	"stet/spot"
@@ -415,6 +417,12 @@ func TestValuesAreCopied(t *testing.T) {
 	if other != bag.Of(70, 7) || third != other.Or(bag.Of(8)) || third == other {
 		t.Error(other.List(), third.List())
 	}
+	kept := pin.Of(api.Sel{Kind: api.SelText, Anchor: 1, Head: 2})
+	same := kept
+	same.B = 3
+	if kept != (pin.Pin{Kind: 1, A: 1, B: 2}) || same == kept || same.Through(nil) != same || kept.Through(&route.Route{}) != kept || pin.Of(api.Sel{Kind: api.SelNode, Anchor: 1, Head: 2}) != pin.Of(api.Sel{Kind: api.SelNode, Anchor: 1, Head: 3}) {
+		t.Error(kept, same)
+	}
 }
 
 // P5: numbers aren't let go round, and have one form.
@@ -501,6 +509,7 @@ func TestNothingIsKept(t *testing.T) {
 		l = append(l, txSay(t, `<p=9 link=4*br > *hr <p *br >`)...)
 		l = append(l, moveSay(t, `<p=9 link=4*br > *hr <p *br >`)...)
 		l = append(l, selSay(t, `<p=9 link=4*br > *hr <p *br >`)...)
+		l = append(l, followSay(t, `<p=9 link=4*br > *hr <p *br >`)...)
 		l = append(append(l, expr.Names(parts)...), expr.Show(parts), lex.Show(signs), words.Show(place), wrong.Error())
 		return words.Join(append(l, words.Hide(b), words.Show(at), e.Error(), string(k), words.Show(n), f.Error())...)
 	}
@@ -535,6 +544,7 @@ func TestNothingIsKept(t *testing.T) {
 	txSay(t, `*hr <p b*br > <p >`)
 	moveSay(t, `*hr <p b*br > <p >`)
 	selSay(t, `*hr <p b*br > <p >`)
+	followSay(t, `*hr <p b*br > <p >`)
 	if now := say(); now != was {
 		t.Errorf("%q, then %q", was, now)
 	}
