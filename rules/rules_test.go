@@ -510,6 +510,7 @@ func TestNothingIsKept(t *testing.T) {
 		l = append(l, moveSay(t, `<p=9 link=4*br > *hr <p *br >`)...)
 		l = append(l, selSay(t, `<p=9 link=4*br > *hr <p *br >`)...)
 		l = append(l, followSay(t, `<p=9 link=4*br > *hr <p *br >`)...)
+		l = append(l, chainSay(t)...)
 		l = append(append(l, expr.Names(parts)...), expr.Show(parts), lex.Show(signs), words.Show(place), wrong.Error())
 		return words.Join(append(l, words.Hide(b), words.Show(at), e.Error(), string(k), words.Show(n), f.Error())...)
 	}
@@ -545,6 +546,7 @@ func TestNothingIsKept(t *testing.T) {
 	moveSay(t, `*hr <p b*br > <p >`)
 	selSay(t, `*hr <p b*br > <p >`)
 	followSay(t, `*hr <p b*br > <p >`)
+	chainSay(t)
 	if now := say(); now != was {
 		t.Errorf("%q, then %q", was, now)
 	}
